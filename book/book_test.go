@@ -868,6 +868,27 @@ func TestNoTwoListsOfOneAnswerShareAny(t *testing.T) { // 'What holds everywhere
 	}
 }
 
+func TestABrokerTakesMoreCallsThanAPlay(t *testing.T) { // a world's books, which layer 12 asks for
+	b, code := book.NewBroker(2, 3, 1)
+	if code != api.OK || b.Reserve() != 0 {
+		t.Fatalf("a broker: %d in its reserve, and %d", b.Reserve(), code)
+	}
+	b.Take(stocked(9 * deeds))
+	for i := range 2 * deeds {
+		if got := b.Take(want(1, 3*i+3)); !same(got, done()) {
+			t.Fatalf("the want %d comes to %v", i, got)
+		}
+		if got := b.Take(round()); !same(got, began(9*deeds-3*i, 0, 3*i+3)) || b.Reserve() != 9*deeds-3*i-3 {
+			t.Fatalf("the round %d comes to %v, with %d in the reserve", i, got, b.Reserve())
+		}
+	}
+	for _, x := range []broker{{0, 3, 1}, {9, 3, 1}, {2, -1, 1}, {2, full + 1, 1}, {2, 3, 0}, {2, 3, 9}} {
+		if b, code := book.NewBroker(x.branches, x.most, x.ticks); code != api.ErrRange || b.Reserve() != 0 {
+			t.Errorf("NewBroker(%v): %d", x, code)
+		}
+	}
+}
+
 // Example: as README.md tells it.
 func Example() {
 	told, _ := book.Play(2, 4, 2, []api.Call{

@@ -1164,6 +1164,63 @@ func deepCopy(has [][][]api.Entry) [][][]api.Entry {
 	return all
 }
 
+func TestAStoreTakesMoreTurnsThanAPlay(t *testing.T) { // a branch's entries, which layer 12 asks for
+	s := gossip.NewStore(1, three.labels)
+	for i := range 2 * deeds {
+		if code := s.Write(0, i%shelf, i%(highest+1)); code != api.OK {
+			t.Fatalf("the write %d comes to %d", i, code)
+		}
+		if value, code := s.Value(0, i%shelf); value != i%(highest+1) || code != api.OK {
+			t.Fatalf("behind the write %d there is %d, and %d", i, value, code)
+		}
+	}
+	if got := s.Entries()[0]; len(got) != shelf || got[shelf-1] != note(7, 599%256, 600, 1) {
+		t.Errorf("at last there is %v", got)
+	}
+}
+
+func TestWhatAStoreHears(t *testing.T) { // the same
+	s := gossip.NewStore(1, three.labels)
+	s.Write(0, 1, 5)
+	told := branch(many(note(1, 6, 1, 0), note(2, 7, 2, 0)), many(note(3, 8, 1, 0)), many(gone(4, 3, 0), note(5, 9, 1, 2)))
+	s.Hear(0, told)
+	// Of 0 nothing under the label of 1 and 2.
+	want := branch(many(note(1, 5, 1, 1), note(2, 7, 2, 0)), nil, many(gone(4, 3, 0), note(5, 9, 1, 2)))
+	if got := s.Entries(); !sameBranch(got, want) {
+		t.Errorf("it has %v, want %v", got, want)
+	}
+	// Neither what is told nor what is answered is kept.
+	spoil(told[0], gone(9, 9, 9))
+	for _, l := range s.Entries() {
+		spoil(l, gone(9, 9, 9))
+	}
+	if got := s.Entries(); !sameBranch(got, want) {
+		t.Errorf("it has %v, want %v", got, want)
+	}
+}
+
+func TestTheValuesOfAStore(t *testing.T) { // the same
+	s := gossip.NewStore(1, []int{3, 1})
+	s.Write(0, 1, 5)
+	s.Hear(0, branch(many(gone(2, 1, 0), note(3, 4, 1, 0)), nil))
+	is := func(label, key, value int, want api.Errno) {
+		t.Helper()
+		if got, code := s.Value(label, key); got != value || code != want {
+			t.Errorf("under the label %d and the key %d there is %d, and %d; want %d and %d", label, key, got, code, value, want)
+		}
+	}
+	is(0, 1, 5, api.OK)
+	is(0, 3, 4, api.OK)
+	is(0, 2, 0, api.ErrNone)
+	is(0, 7, 0, api.ErrNone)
+	is(1, 1, 0, api.ErrDenied)
+	for _, n := range wild {
+		is(n, 1, 0, api.ErrRange)
+		is(0, n, 0, api.ErrRange)
+		is(1, n, 0, api.ErrRange)
+	}
+}
+
 // Example: as README.md tells it.
 func Example() {
 	told, has, _ := gossip.Play(3, []int{3, 6}, []api.Turn{

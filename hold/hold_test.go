@@ -766,6 +766,33 @@ func TestAnswersAreNewMemory(t *testing.T) { // 'What holds everywhere'
 	}
 }
 
+func TestAStockTakesMoreOrdersThanAPlay(t *testing.T) { // a world's stocks, which layer 12 asks for
+	var s hold.Stock
+	if got := s.Now(); got != (api.Stock{}) {
+		t.Fatalf("at first there is %v", got)
+	}
+	for i := range 2 * deeds {
+		if got := s.Take(gain(2)); got != done(2+i, 0, i) {
+			t.Fatalf("behind %d orders: %v", 2*i, got)
+		}
+		if got := s.Take(sell(1)); got != done(1+i, 0, 1+i) {
+			t.Fatalf("behind %d orders: %v", 2*i+1, got)
+		}
+	}
+	if got := s.Take(holds(5, 1)); got != made(1, 2*deeds-5, 5, 2*deeds) {
+		t.Errorf("a hold comes to %v", got)
+	}
+	if got := s.Take(confirm(9)); got != refused(api.ErrNone, 2*deeds-5, 5, 2*deeds) {
+		t.Errorf("a hold that there is not comes to %v", got)
+	}
+	// What there is has neither Code nor Id, and is not changed by being told.
+	for range 2 {
+		if got := s.Now(); got != done(2*deeds-5, 5, 2*deeds) {
+			t.Errorf("there is %v", got)
+		}
+	}
+}
+
 // Example: as README.md tells it.
 func Example() {
 	told, _ := hold.Play([]api.Order{

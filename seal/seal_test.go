@@ -690,6 +690,63 @@ func TestNoTwoListsOfOneAnswerShareAny(t *testing.T) { // 'What holds everywhere
 	}
 }
 
+func TestAnOfficeTakesMoreMovesThanAPlay(t *testing.T) { // a world's letters, which layer 12 asks for
+	var o seal.Office
+	for i := range 2 * deeds {
+		if got := o.Post(i%3, 3, text(i%longest, byte(i))); !same(got, posted(i, i%longest)) {
+			t.Fatalf("the letter %d comes to %v", i, got)
+		}
+	}
+	for i := range 2 * deeds {
+		if got := o.Open(3, i); !same(got, opened(i, text(i%longest, byte(i))...)) {
+			t.Fatalf("the letter %d is opened as %v", i, got)
+		}
+	}
+	if got := o.Open(3, 2*deeds-1); !same(got, refused(api.ErrOld)) {
+		t.Errorf("opened twice it comes to %v", got)
+	}
+}
+
+func TestWhatAnyoneSeesOfALetter(t *testing.T) { // the same
+	var o seal.Office
+	data := []byte{7, 8, 9}
+	o.Post(2, broker, data)
+	o.Post(2, broker, nil)
+	spoil(data, 0)
+	for id, want := range []api.Envelope{{Id: 0, From: 2, To: broker, Size: 3}, {Id: 1, From: 2, To: broker}} {
+		if got, code := o.Seen(id); got != want || code != api.OK || o.IsOld(got) {
+			t.Errorf("of the letter %d %v and %d is seen, old: %v", id, got, code, o.IsOld(got))
+		}
+	}
+	for _, id := range append([]int{2}, noIds...) {
+		if got, code := o.Seen(id); got != (api.Envelope{}) || code != api.ErrNone {
+			t.Errorf("of the letter %d %v and %d is seen", id, got, code)
+		}
+	}
+	// What was posted stays as it was.
+	if got := o.Open(broker, 0); !same(got, opened(0, 7, 8, 9)) {
+		t.Errorf("the letter is opened as %v", got)
+	}
+	for id, want := range []bool{true, false} {
+		if x, _ := o.Seen(id); o.IsOld(x) != want {
+			t.Errorf("the letter %d is old: %v", id, !want)
+		}
+	}
+	o.Open(broker, 1)
+	if x, _ := o.Seen(1); !o.IsOld(x) {
+		t.Error("a letter that was opened is not old")
+	}
+	// Parties that there are not, and what is too long.
+	for _, n := range noParties {
+		if !same(o.Post(n, 0, nil), refused(api.ErrRange)) || !same(o.Post(0, n, nil), refused(api.ErrRange)) || !same(o.Open(n, 0), refused(api.ErrRange)) {
+			t.Errorf("%d is a party", n)
+		}
+	}
+	if got := o.Post(0, 1, text(longest+1, 1)); !same(got, refused(api.ErrSize)) {
+		t.Errorf("a letter that is too long comes to %v", got)
+	}
+}
+
 // Example: as README.md tells it.
 func Example() {
 	told, _ := seal.Play([]api.Letter{
